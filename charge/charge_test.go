@@ -53,22 +53,22 @@ func (m *model) limit(group int) int {
 	return 0
 }
 
-// faults are all errors of the arguments of a call for a path, in the order in which they come, and OK.
+// faults are all errors of the arguments of a call for a path, in the order in which they come, and OK: those of the elements come ahead of those of the list, whatever its length is.
 func faults(path []int, n int) []api.Errno {
-	var l []api.Errno
+	var ofElements, ofList []api.Errno
 	if len(path) < 1 || len(path) > 8 {
-		l = append(l, api.ErrArg)
+		ofList = append(ofList, api.ErrArg)
 	}
 	seen := map[int]bool{}
 	for _, group := range path {
 		if !isOne(group) {
-			l = append(l, api.ErrGroup)
+			ofElements = append(ofElements, api.ErrGroup)
 		} else if seen[group] {
-			l = append(l, api.ErrArg)
+			ofList = append(ofList, api.ErrArg)
 		}
 		seen[group] = true
 	}
-	return append(l, numberFaults(n)...)
+	return slices.Concat(ofElements, ofList, numberFaults(n))
 }
 
 // numberFaults is the error of a number, and OK.
@@ -347,16 +347,17 @@ func noPaths() map[api.Errno][][]int {
 		api.ErrArg: {
 			nil, {}, upTo(1, 9), upTo(8, 16), upTo(1, 16), {1, 1}, {16, 16}, {1, 2, 1}, {2, 1, 1}, {2, 2, 1}, {3, 2, 1, 3}, {8, 7, 6, 5, 4, 3, 2, 8}, {8, 7, 6, 5, 4, 3, 2, 2},
 			{8, 7, 6, 5, 5, 3, 2, 1}, {8, 7, 6, 5, 4, 3, 8, 1}, {4, 4, 4}, slices.Repeat([]int{1}, 8), slices.Repeat([]int{1}, 9), slices.Repeat([]int{2, 1}, 4),
-			// the length comes ahead of the elements
-			append(upTo(1, 8), 17), append([]int{0}, upTo(1, 8)...), upTo(9, 17), upTo(0, 16), slices.Repeat([]int{-1}, 9), slices.Repeat([]int{17}, 300),
-			// a group that is there twice, ahead of one that is none
-			{1, 1, 17}, {2, 1, 2, 0}, {3, 3, 2, -1}, {8, 7, 6, 5, 4, 3, 8, 17}, {1, 1, math.MinInt},
+			slices.Repeat([]int{16}, 300), append(upTo(1, 16), upTo(1, 16)...),
 		},
 		api.ErrGroup: {
 			{0}, {-1}, {17}, {0, 1}, {2, 0}, {17, 1}, {1, 17}, {3, 17, 1}, {3, 2, 17}, {3, -1, 1}, {8, 7, 6, 5, 4, 3, 2, 17}, {8, 7, 6, 5, 4, 3, 2, 0}, {17, 7, 6, 5, 4, 3, 2, 1},
 			{8, 7, 6, 17, 4, 3, 2, 1}, {0, 0}, {17, 17}, {-1, -1, -1}, slices.Repeat([]int{0}, 8), {1, math.MaxInt}, {math.MinInt, 1},
-			// a group that is none, ahead of one that is there twice
-			{17, 1, 1}, {1, 0, 1}, {8, 7, 6, 5, 4, 17, 3, 8}, {2, -1, 2, 2},
+			// a group that is none, ahead of one that is there twice, between and behind
+			{17, 1, 1}, {1, 0, 1}, {8, 7, 6, 5, 4, 17, 3, 8}, {2, -1, 2, 2}, {1, 1, 17}, {2, 1, 2, 0}, {3, 3, 2, -1}, {8, 7, 6, 5, 4, 3, 8, 17}, {1, 1, math.MinInt}, {16, 16, math.MaxInt},
+			// one that is none, of more than 8
+			append(upTo(1, 8), 17), append([]int{0}, upTo(1, 8)...), {1, 2, 3, 4, 17, 5, 6, 7, 8}, upTo(9, 17), upTo(0, 16), upTo(0, 17),
+			// all of these
+			slices.Repeat([]int{-1}, 9), slices.Repeat([]int{17}, 300), append(slices.Repeat([]int{1}, 9), 0), append([]int{17}, slices.Repeat([]int{2, 1}, 6)...),
 		},
 	}
 }
@@ -533,14 +534,36 @@ func TestAllLists(t *testing.T) { // ErrArg, ErrGroup: all lists of up to 4 of 5
 	}
 }
 
-func TestLongLists(t *testing.T) { // ErrArg, R1: of any length beyond 8, whatever is in them
+func TestNoGroupAheadOfAll(t *testing.T) { // ErrGroup: at each place of lists of each length, with all groups different or not, with good and bad numbers, P12.5
+	p := busy(t)
+	for many := 1; many <= 16; many++ {
+		for _, list := range [][]int{upTo(1, many), slices.Repeat([]int{5}, many), slices.Repeat([]int{4, 3}, many)[:many]} {
+			for at := range many {
+				for _, group := range []int{0, 17, -1, math.MinInt, math.MaxInt} {
+					path := slices.Clone(list)
+					path[at] = group
+					for _, n := range []int{0, 1, 1000, most, -1, most + 1, math.MinInt, math.MaxInt} {
+						p.tries(path, n, 0, api.ErrGroup)
+						p.backs(path, n, api.ErrGroup)
+					}
+				}
+			}
+		}
+		p.done = nil
+	}
+}
+
+func TestLongLists(t *testing.T) { // ErrArg, ErrGroup, R1: of any length beyond 8
 	p := busy(t)
 	for _, many := range []int{9, 10, 15, 16, 17, 64, 256, 257, 1 << 16, 1<<16 + 1} {
-		for _, first := range []int{0, 1, 17} {
+		for first, want := range map[int]api.Errno{0: api.ErrGroup, 1: api.ErrArg, 17: api.ErrGroup} {
 			path := slices.Repeat([]int{first, 2}, many)[:many]
-			p.tries(path, 1, 0, api.ErrArg)
-			p.backs(path, 1, api.ErrArg)
+			p.tries(path, 1, 0, want)
+			p.backs(path, 1, want)
 		}
+		path := append(slices.Repeat([]int{2}, many), 17) // the last one alone
+		p.tries(path, 1, 0, api.ErrGroup)
+		p.backs(path, 1, api.ErrGroup)
 	}
 }
 
